@@ -1,0 +1,115 @@
+// Package given holds no program: its tests see to what was given, and to the language's rules.
+package given
+
+import (
+	"crypto/sha256"
+	"encoding/hex"
+	"errors"
+	"os"
+	"testing"
+
+	"demon/api"
+	"demon/logs"
+	"demon/plain"
+)
+
+// P5
+
+func TestNumbers(t *testing.T) {
+	for _, c := range []struct {
+		name      string
+		got, want int
+	}{
+		{"MaxNumber", api.MaxNumber, 1000000},
+		{"MaxDen", api.MaxDen, 1000000},
+		{"MaxCoef", api.MaxCoef, 1099511627776},
+		{"MaxPower", api.MaxPower, 40000},
+		{"MaxTold", api.MaxTold, 4611686018427387904},
+		{"MaxPart", api.MaxPart, 1073741824},
+		{"MaxSize", api.MaxSize, 16},
+		{"MaxWeight", api.MaxWeight, 4096},
+		{"MaxStates", api.MaxStates, 8},
+		{"MaxSteps", api.MaxSteps, 200},
+		{"MaxWord", api.MaxWord, 64},
+		{"MaxLetters", api.MaxLetters, 200},
+		{"MaxText", api.MaxText, 4000},
+		{"MaxBits", api.MaxBits, 24},
+		{"MaxDepth", api.MaxDepth, 4},
+		{"MaxTypes", api.MaxTypes, 20},
+		{"MaxVertex", api.MaxVertex, 16},
+		{"MaxSpins", api.MaxSpins, 14},
+		{"MaxEdges", api.MaxEdges, 30},
+		{"MaxModulus", api.MaxModulus, 997},
+		{"MaxProgram", api.MaxProgram, 40},
+		{"MaxOutput", api.MaxOutput, 24},
+		{"MaxLines", api.MaxLines, 400},
+		{"MaxName", api.MaxName, 12},
+		{"Workers", api.Workers, 16},
+	} {
+		if c.got != c.want {
+			t.Error(c)
+		}
+	}
+}
+
+func TestErrors(t *testing.T) {
+	for i, c := range []struct {
+		err  error
+		want string
+	}{
+		{api.ErrText, "demon: text"},
+		{api.ErrBound, "demon: bound"},
+		{api.ErrShape, "demon: shape"},
+		{api.ErrZero, "demon: zero"},
+		{api.ErrName, "demon: name"},
+		{api.ErrNone, "demon: none"},
+		{api.ErrOrder, "demon: order"},
+		{api.ErrKind, "demon: kind"},
+	} {
+		if c.err.Error() != c.want {
+			t.Error(c)
+		}
+		if code, at := plain.Code(c.err); code != i+1 || at != -1 {
+			t.Error(c, code, at)
+		}
+		fault := &api.Fault{At: 7, Err: c.err}
+		if code, at := plain.Code(fault); code != i+1 || at != 7 || !errors.Is(fault, c.err) || fault.Error() != c.want {
+			t.Error(c, code, at)
+		}
+	}
+	if code, at := plain.Code(nil); code != 0 || at != -1 {
+		t.Error(code, at)
+	}
+	if code, at := plain.Code(errors.New("another one")); code != -1 || at != -1 {
+		t.Error(code, at)
+	}
+}
+
+// Packages api and plain stay to the byte.
+func TestToTheByte(t *testing.T) {
+	for file, want := range map[string]string{
+		"../api/api.go":     "04efe679b11e39dad91a36a61c32749c25fd09e5afb3b5a536daa789372fbdea",
+		"../plain/plain.go": "c72a16bb90b3cb97180e1356614179c2305e521a00bed19f04b8023196c6fb15",
+	} {
+		text, err := os.ReadFile(file)
+		if err != nil {
+			t.Fatal(err)
+		}
+		sum := sha256.Sum256(text)
+		if got := hex.EncodeToString(sum[:]); got != want {
+			t.Error(file, got)
+		}
+	}
+}
+
+// What package logs exports stays as it was given.
+var (
+	_ func(api.Log) error                      = logs.Valid
+	_ func(api.Frac) (api.Log, error)          = logs.Of
+	_ func(a, b api.Log) (api.Log, error)      = logs.Add
+	_ func(api.Log, api.Frac) (api.Log, error) = logs.Scale
+	_ func(api.Log) (int, error)               = logs.Sign
+	_ func(api.Log) (int, error)               = logs.Grains
+	_ func(api.Log) (string, error)            = logs.Text
+	_ func(string) (api.Log, error)            = logs.Read
+)

@@ -1,0 +1,88 @@
+package whole
+
+import (
+	"cmp"
+	"math/bits"
+)
+
+// Nat is a number from 0 on without a bound: words of 64 bits, the lowest one first, the last one not 0. It is never changed once it is made.
+type Nat []uint64
+
+// NatOf a word.
+func NatOf(word uint64) Nat {
+	if word == 0 {
+		return nil
+	}
+	return Nat{word}
+}
+
+// Times a word.
+func (a Nat) Times(word uint64) Nat {
+	if word == 0 {
+		return nil
+	}
+	out := make(Nat, 0, len(a)+1)
+	var carry uint64
+	for _, w := range a {
+		high, low := bits.Mul64(w, word)
+		low, over := bits.Add64(low, carry, 0)
+		out = append(out, low)
+		carry = high + over
+	}
+	if carry != 0 {
+		out = append(out, carry)
+	}
+	return out
+}
+
+// TimesPower is a times the power of a word that is not 0. Factors are gathered in one word while they fit, as each pass over a costs its whole length.
+func (a Nat) TimesPower(word uint64, power int) Nat {
+	gathered := uint64(1)
+	for range power {
+		high, low := bits.Mul64(gathered, word)
+		if high != 0 {
+			a, low = a.Times(gathered), word
+		}
+		gathered = low
+	}
+	return a.Times(gathered)
+}
+
+// Bits of a: 0 has none.
+func (a Nat) Bits() int {
+	if len(a) == 0 {
+		return 0
+	}
+	return 64*(len(a)-1) + bits.Len64(a[len(a)-1])
+}
+
+// Shift is a times 2 to the power of by, which is not below 0.
+func (a Nat) Shift(by int) Nat {
+	if len(a) == 0 {
+		return nil
+	}
+	out := make(Nat, by/64, by/64+len(a)+1)
+	return append(out, a.Times(1<<(by%64))...)
+}
+
+// Cmp is -1, 0 or 1, as a is below b, b, or above it.
+func (a Nat) Cmp(b Nat) int {
+	if len(a) != len(b) {
+		return cmp.Compare(len(a), len(b))
+	}
+	for i := len(a) - 1; i >= 0; i-- {
+		if a[i] != b[i] {
+			return cmp.Compare(a[i], b[i])
+		}
+	}
+	return 0
+}
+
+// FloorLog is the greatest k with 2 to the power of k at most a over b; neither is 0.
+func FloorLog(a, b Nat) int {
+	k := a.Bits() - b.Bits()
+	if a.Shift(max(0, -k)).Cmp(b.Shift(max(0, k))) < 0 {
+		return k - 1
+	}
+	return k
+}

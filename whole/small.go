@@ -1,0 +1,40 @@
+// Package whole: whole numbers: small helpers of int, and numbers without a bound.
+package whole
+
+// Size of a number, without its sign.
+func Size(n int) int {
+	if n < 0 {
+		return -n
+	}
+	return n
+}
+
+// GCD is the greatest number that divides both (of 0 and 0: 0).
+func GCD(a, b int) int {
+	for b != 0 {
+		a, b = b, a%b
+	}
+	return Size(a)
+}
+
+// Floor is the greatest whole number that is at most a over b; b is above 0.
+func Floor(a, b int) int {
+	q := a / b
+	if a%b < 0 {
+		q--
+	}
+	return q
+}
+
+// Prime tells whether n is one.
+func Prime(n int) bool {
+	if n < 4 || n%2 == 0 {
+		return n == 2 || n == 3
+	}
+	for d := 3; d <= n/d; d += 2 {
+		if n%d == 0 {
+			return false
+		}
+	}
+	return true
+}

@@ -1,0 +1,119 @@
+package whole
+
+import (
+	"math/big"
+	"math/rand"
+	"testing"
+)
+
+func TestSmall(t *testing.T) {
+	for a := -40; a <= 40; a++ {
+		for b := -40; b <= 40; b++ {
+			want := int(new(big.Int).GCD(nil, nil, big.NewInt(int64(Size(a))), big.NewInt(int64(Size(b)))).Int64())
+			if got := GCD(a, b); got != want {
+				t.Errorf("GCD(%d, %d) = %d, want %d", a, b, got, want)
+			}
+			if b < 1 {
+				continue
+			}
+			if q := Floor(a, b); q*b > a || (q+1)*b <= a {
+				t.Errorf("Floor(%d, %d) = %d", a, b, q)
+			}
+		}
+	}
+}
+
+func TestPrime(t *testing.T) {
+	for n := -5; n < 3000; n++ {
+		if got, want := Prime(n), n > 0 && big.NewInt(int64(n)).ProbablyPrime(20); got != want {
+			t.Errorf("Prime(%d) = %v", n, got)
+		}
+	}
+	for _, n := range []int{997 * 997, 991 * 997, 999999, 1000000} {
+		if Prime(n) {
+			t.Errorf("Prime(%d)", n)
+		}
+	}
+	if !Prime(999983) {
+		t.Error("999983 is a prime")
+	}
+}
+
+func toBig(a Nat) *big.Int {
+	out := new(big.Int)
+	for i := len(a) - 1; i >= 0; i-- {
+		out.Lsh(out, 64)
+		out.Or(out, new(big.Int).SetUint64(a[i]))
+	}
+	return out
+}
+
+func someNats() []Nat {
+	r := rand.New(rand.NewSource(1))
+	out := []Nat{NatOf(0), NatOf(1), NatOf(2), NatOf(1<<63 - 1), NatOf(1 << 63), NatOf(1<<64 - 1), {0, 1}, {1<<64 - 1, 1<<64 - 1}, {0, 0, 1 << 63}}
+	for range 20 {
+		a := NatOf(1)
+		for range r.Intn(12) {
+			a = a.Times(r.Uint64() | 1)
+		}
+		out = append(out, a)
+	}
+	return out
+}
+
+func TestNat(t *testing.T) {
+	for _, a := range someNats() {
+		x := toBig(a)
+		if len(a) > 0 && a[len(a)-1] == 0 {
+			t.Errorf("%v: highest word is 0", a)
+		}
+		if a.Bits() != x.BitLen() {
+			t.Errorf("%v: Bits %d, want %d", x, a.Bits(), x.BitLen())
+		}
+		for _, word := range []uint64{0, 1, 3, 1 << 32, 1<<64 - 1} {
+			want := new(big.Int).Mul(x, new(big.Int).SetUint64(word))
+			if got := a.Times(word); toBig(got).Cmp(want) != 0 || got.Bits() != want.BitLen() {
+				t.Errorf("%v times %d: %v", x, word, toBig(got))
+			}
+		}
+		for _, by := range []int{0, 1, 63, 64, 65, 200} {
+			want := new(big.Int).Lsh(x, uint(by))
+			if got := a.Shift(by); toBig(got).Cmp(want) != 0 || got.Bits() != want.BitLen() {
+				t.Errorf("%v shifted by %d: %v", x, by, toBig(got))
+			}
+		}
+		for _, power := range []int{0, 1, 2, 40, 41, 777} {
+			for _, word := range []uint64{1, 3, 999983, 1<<64 - 1} {
+				want := new(big.Int).Exp(new(big.Int).SetUint64(word), big.NewInt(int64(power)), nil)
+				if got := toBig(a.TimesPower(word, power)); got.Cmp(want.Mul(want, x)) != 0 {
+					t.Errorf("%v times %d to the power of %d: %v", x, word, power, got)
+				}
+			}
+		}
+	}
+}
+
+func TestTwoNats(t *testing.T) {
+	for _, a := range someNats() {
+		for _, b := range someNats() {
+			x, y := toBig(a), toBig(b)
+			if got := a.Cmp(b); got != x.Cmp(y) {
+				t.Errorf("%v Cmp %v: %d", x, y, got)
+			}
+			if len(a) == 0 || len(b) == 0 {
+				continue
+			}
+			k := FloorLog(a, b)
+			if !atMost(k, x, y) || atMost(k+1, x, y) {
+				t.Errorf("FloorLog of %v over %v: %d", x, y, k)
+			}
+		}
+	}
+}
+
+// atMost: is 2 to the power of k at most x over y?
+func atMost(k int, x, y *big.Int) bool {
+	left := new(big.Int).Lsh(y, uint(max(0, k)))
+	right := new(big.Int).Lsh(x, uint(max(0, -k)))
+	return left.Cmp(right) <= 0
+}
