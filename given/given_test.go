@@ -9,6 +9,7 @@ import (
 	"testing"
 
 	"demon/api"
+	"demon/dist"
 	"demon/logs"
 	"demon/plain"
 )
@@ -112,4 +113,19 @@ var (
 	_ func(api.Log) (int, error)               = logs.Grains
 	_ func(api.Log) (string, error)            = logs.Text
 	_ func(string) (api.Log, error)            = logs.Read
+)
+
+// What package dist exports stays as it was given.
+var (
+	_ func([]int) error                      = dist.Valid
+	_ func([][]int) error                    = dist.Table
+	_ func([]int) (api.Log, error)           = dist.Entropy
+	_ func(p, q []int) (api.Log, error)      = dist.Divergence
+	_ func([][]int) ([]int, error)           = dist.Rows
+	_ func([][]int) ([]int, error)           = dist.Columns
+	_ func([][]int) (api.Log, error)         = dist.Joint
+	_ func([][]int) (api.Log, error)         = dist.Given
+	_ func([][]int) (api.Log, error)         = dist.Mutual
+	_ func(p, q []int) (api.Frac, error)     = dist.Variation
+	_ func(w []int, to []int) ([]int, error) = dist.Merge
 )

@@ -3,6 +3,7 @@ package logs
 
 import (
 	"demon/api"
+	"demon/sums"
 	"demon/whole"
 )
 
@@ -34,10 +35,10 @@ func Of(f api.Frac) (api.Log, error) {
 	if !hasLog(f.Num) || !hasLog(f.Den) {
 		return api.Log{}, api.ErrShape
 	}
-	s := newSum(1)
-	s.putFactors(f.Num, 1)
-	s.putFactors(f.Den, -1)
-	return s.told()
+	s := sums.Over(1)
+	s.Put(f.Num, 1)
+	s.Put(f.Den, -1)
+	return s.Told()
 }
 
 func hasLog(n int) bool { return n >= 1 && n <= api.MaxNumber }
@@ -52,10 +53,10 @@ func Add(a, b api.Log) (api.Log, error) {
 	}
 	// A coefficient times the other one's denominator has at most 60 bits, so the sum of two fits.
 	common := whole.GCD(a.Den, b.Den)
-	s := newSum(a.Den / common * b.Den)
-	s.putTerms(a.L, b.Den/common)
-	s.putTerms(b.L, a.Den/common)
-	return s.told()
+	s := sums.Over(a.Den / common * b.Den)
+	s.PutTerms(a.L, b.Den/common)
+	s.PutTerms(b.L, a.Den/common)
+	return s.Told()
 }
 
 // Scale by a fraction.
@@ -69,7 +70,7 @@ func Scale(a api.Log, f api.Frac) (api.Log, error) {
 	if f.Num == 0 || len(a.L) == 0 {
 		return api.Log{Den: 1}, nil
 	}
-	return scaled(a, lowest(f))
+	return scaled(a, whole.Lowest(f.Num, f.Den))
 }
 
 // scaled is a times f, which is in its lowest terms and not 0. All that cancels is taken out ahead of multiplying: products with it might not fit, though the answer does.
@@ -93,9 +94,4 @@ func scaled(a api.Log, f api.Frac) (api.Log, error) {
 		out.L = append(out.L, api.Term{Prime: t.Prime, Coef: coef * num})
 	}
 	return out, nil
-}
-
-func lowest(f api.Frac) api.Frac {
-	common := whole.GCD(f.Num, f.Den)
-	return api.Frac{Num: f.Num / common, Den: f.Den / common}
 }

@@ -19,7 +19,7 @@ func Text(a api.Log) (string, error) {
 	var out strings.Builder
 	for i, t := range a.L {
 		out.WriteString(signText(i == 0, t.Coef < 0))
-		out.WriteString(factorText(lowest(api.Frac{Num: whole.Size(t.Coef), Den: a.Den})))
+		out.WriteString(factorText(whole.Lowest(whole.Size(t.Coef), a.Den)))
 		out.WriteString("log ")
 		out.WriteString(strconv.Itoa(t.Prime))
 	}

@@ -1,6 +1,8 @@
 // Package whole: whole numbers: small helpers of int, and numbers without a bound.
 package whole
 
+import "demon/api"
+
 // Size of a number, without its sign.
 func Size(n int) int {
 	if n < 0 {
@@ -15,6 +17,12 @@ func GCD(a, b int) int {
 		a, b = b, a%b
 	}
 	return Size(a)
+}
+
+// Lowest is the fraction num over den in its lowest terms; den is above 0.
+func Lowest(num, den int) api.Frac {
+	common := GCD(num, den)
+	return api.Frac{Num: num / common, Den: den / common}
 }
 
 // Floor is the greatest whole number that is at most a over b; b is above 0.

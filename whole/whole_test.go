@@ -19,6 +19,10 @@ func TestSmall(t *testing.T) {
 			if q := Floor(a, b); q*b > a || (q+1)*b <= a {
 				t.Errorf("Floor(%d, %d) = %d", a, b, q)
 			}
+			r := big.NewRat(int64(a), int64(b))
+			if f := Lowest(a, b); int64(f.Num) != r.Num().Int64() || int64(f.Den) != r.Denom().Int64() {
+				t.Errorf("Lowest(%d, %d) = %v", a, b, f)
+			}
 		}
 	}
 }

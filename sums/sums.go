@@ -1,4 +1,5 @@
-package logs
+// Package sums: sums of logarithms, while they are made.
+package sums
 
 import (
 	"maps"
@@ -8,22 +9,27 @@ import (
 	"demon/whole"
 )
 
-// sum of logarithms while it is made: coefficients by primes, over one denominator.
-type sum struct {
+// Sum of logarithms: coefficients by primes, over one denominator.
+type Sum struct {
 	den   int
 	coefs map[int]int
 }
 
-func newSum(den int) sum { return sum{den: den, coefs: map[int]int{}} }
+// Over is the sum of nothing yet, over a denominator from 1 on.
+func Over(den int) Sum { return Sum{den: den, coefs: map[int]int{}} }
 
-func (s sum) putTerms(l []api.Term, times int) {
+// PutTerms puts each term, so many times.
+func (s Sum) PutTerms(l []api.Term, times int) {
 	for _, t := range l {
 		s.coefs[t.Prime] += t.Coef * times
 	}
 }
 
-// putFactors puts the logarithm of n, a number from 1 on, so many times.
-func (s sum) putFactors(n, times int) {
+// Put the logarithm of n, a number from 1 on, so many times. 0 times it is nothing, whatever n is: so a chance of 0 needs no care.
+func (s Sum) Put(n, times int) {
+	if times == 0 {
+		return
+	}
 	for d := 2; d <= n/d; d++ {
 		for n%d == 0 {
 			s.coefs[d] += times
@@ -35,8 +41,8 @@ func (s sum) putFactors(n, times int) {
 	}
 }
 
-// told is the sum in form; ErrBound: it has none.
-func (s sum) told() (api.Log, error) {
+// Told is the sum in form; ErrBound: it has none.
+func (s Sum) Told() (api.Log, error) {
 	primes := slices.Sorted(maps.Keys(s.coefs))
 	common := s.den
 	for _, p := range primes {
