@@ -3,6 +3,7 @@ package dist
 import (
 	"demon/api"
 	"demon/sums"
+	"demon/whole"
 )
 
 // putter puts the logarithm of a number, so many times, into a sum.
@@ -17,7 +18,7 @@ func sumOver(den int, parts func(put putter)) (api.Log, error) {
 
 // putEntropy puts the entropy of weights as often as their sum is: so those of several rows go into one sum over the weight of all, and a row of nothing but 0 is nothing.
 func putEntropy(w []int, put putter) {
-	all := total(w)
+	all := whole.Total(w)
 	for _, x := range w {
 		put(all, x)
 		put(x, -x)
@@ -29,7 +30,7 @@ func Entropy(w []int) (api.Log, error) {
 	if err := Valid(w); err != nil {
 		return api.Log{}, err
 	}
-	return sumOver(total(w), func(put putter) { putEntropy(w, put) })
+	return sumOver(whole.Total(w), func(put putter) { putEntropy(w, put) })
 }
 
 // Divergence of p from q.
@@ -42,7 +43,7 @@ func Divergence(p, q []int) (api.Log, error) {
 			return api.Log{}, api.ErrZero
 		}
 	}
-	allP, allQ := total(p), total(q)
+	allP, allQ := whole.Total(p), whole.Total(q)
 	return sumOver(allP, func(put putter) {
 		for i, x := range p {
 			put(x, x)
@@ -59,7 +60,7 @@ func Joint(t [][]int) (api.Log, error) {
 		return api.Log{}, err
 	}
 	all := cells(t)
-	return sumOver(total(all), func(put putter) { putEntropy(all, put) })
+	return sumOver(whole.Total(all), func(put putter) { putEntropy(all, put) })
 }
 
 // Given the first thing: the entropy of the second one.
@@ -67,7 +68,7 @@ func Given(t [][]int) (api.Log, error) {
 	if err := Table(t); err != nil {
 		return api.Log{}, err
 	}
-	return sumOver(total(cells(t)), func(put putter) {
+	return sumOver(whole.Total(cells(t)), func(put putter) {
 		for _, row := range t {
 			putEntropy(row, put)
 		}
@@ -80,7 +81,7 @@ func Mutual(t [][]int) (api.Log, error) {
 		return api.Log{}, err
 	}
 	rows, columns := rowSums(t), columnSums(t)
-	all := total(rows)
+	all := whole.Total(rows)
 	return sumOver(all, func(put putter) {
 		for i, row := range t {
 			for k, x := range row {

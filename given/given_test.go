@@ -9,6 +9,7 @@ import (
 	"testing"
 
 	"demon/api"
+	"demon/chain"
 	"demon/dist"
 	"demon/logs"
 	"demon/plain"
@@ -128,4 +129,18 @@ var (
 	_ func([][]int) (api.Log, error)         = dist.Mutual
 	_ func(p, q []int) (api.Frac, error)     = dist.Variation
 	_ func(w []int, to []int) ([]int, error) = dist.Merge
+)
+
+// What package chain exports stays as it was given.
+var (
+	_ func([][]int) error                                     = chain.Valid
+	_ func([][]int) ([]int, error)                            = chain.Classes
+	_ func([][]int) ([]int, error)                            = chain.Closed
+	_ func(c [][]int, i int) (int, error)                     = chain.Period
+	_ func([][]int) ([]api.Frac, error)                       = chain.Stationary
+	_ func([][]int) (bool, error)                             = chain.Reversible
+	_ func(c [][]int, to int) ([]api.Frac, error)             = chain.Hitting
+	_ func(c [][]int, to int) (api.Frac, error)               = chain.Return
+	_ func(c [][]int, w []int, steps int) ([]api.Frac, error) = chain.After
+	_ func([][]int) (api.Log, error)                          = chain.Rate
 )

@@ -35,6 +35,66 @@ func (a Nat) Times(word uint64) Nat {
 	return out
 }
 
+// Plus is the sum.
+func (a Nat) Plus(b Nat) Nat {
+	if len(a) < len(b) {
+		a, b = b, a
+	}
+	out := make(Nat, 0, len(a)+1)
+	var word, carry uint64
+	for i, w := range a {
+		word, carry = bits.Add64(w, b.word(i), carry)
+		out = append(out, word)
+	}
+	if carry != 0 {
+		out = append(out, carry)
+	}
+	return out
+}
+
+// Minus is the difference; b is at most a.
+func (a Nat) Minus(b Nat) Nat {
+	out := make(Nat, len(a))
+	var borrow uint64
+	for i, w := range a {
+		out[i], borrow = bits.Sub64(w, b.word(i), borrow)
+	}
+	for len(out) > 0 && out[len(out)-1] == 0 {
+		out = out[:len(out)-1]
+	}
+	return out
+}
+
+// word at a place, also behind the last one.
+func (a Nat) word(at int) uint64 {
+	if at < len(a) {
+		return a[at]
+	}
+	return 0
+}
+
+// By is the product.
+func (a Nat) By(b Nat) Nat {
+	if len(a) == 0 || len(b) == 0 {
+		return nil
+	}
+	out := make(Nat, len(a)+len(b))
+	for i, w := range b {
+		var carry uint64
+		for k, x := range a {
+			high, low := bits.Mul64(x, w)
+			low, one := bits.Add64(low, out[i+k], 0)
+			low, two := bits.Add64(low, carry, 0)
+			out[i+k], carry = low, high+one+two
+		}
+		out[i+len(a)] = carry
+	}
+	if out[len(out)-1] == 0 {
+		out = out[:len(out)-1]
+	}
+	return out
+}
+
 // TimesPower is a times the power of a word that is not 0. Factors are gathered in one word while they fit, as each pass over a costs its whole length.
 func (a Nat) TimesPower(word uint64, power int) Nat {
 	gathered := uint64(1)

@@ -11,6 +11,15 @@ func Size(n int) int {
 	return n
 }
 
+// Total of numbers.
+func Total(l []int) int {
+	sum := 0
+	for _, n := range l {
+		sum += n
+	}
+	return sum
+}
+
 // GCD is the greatest number that divides both (of 0 and 0: 0).
 func GCD(a, b int) int {
 	for b != 0 {

@@ -4,6 +4,8 @@ import (
 	"math/big"
 	"math/rand"
 	"testing"
+
+	"demon/api"
 )
 
 func TestSmall(t *testing.T) {
@@ -24,6 +26,12 @@ func TestSmall(t *testing.T) {
 				t.Errorf("Lowest(%d, %d) = %v", a, b, f)
 			}
 		}
+	}
+}
+
+func TestTotal(t *testing.T) {
+	if Total(nil) != 0 || Total([]int{4}) != 4 || Total([]int{4, -1, 7}) != 10 {
+		t.Error(Total(nil), Total([]int{4}), Total([]int{4, -1, 7}))
 	}
 }
 
@@ -110,6 +118,92 @@ func TestTwoNats(t *testing.T) {
 			k := FloorLog(a, b)
 			if !atMost(k, x, y) || atMost(k+1, x, y) {
 				t.Errorf("FloorLog of %v over %v: %d", x, y, k)
+			}
+		}
+	}
+}
+
+func checkNat(t *testing.T, name string, got Nat, want *big.Int) {
+	t.Helper()
+	if toBig(got).Cmp(want) != 0 || got.Bits() != want.BitLen() || len(got) > 0 && got[len(got)-1] == 0 {
+		t.Errorf("%s: %v, want %v", name, got, want)
+	}
+}
+
+func TestReckoning(t *testing.T) {
+	for _, a := range someNats() {
+		for _, b := range someNats() {
+			x, y := toBig(a), toBig(b)
+			checkNat(t, "Plus", a.Plus(b), new(big.Int).Add(x, y))
+			checkNat(t, "By", a.By(b), new(big.Int).Mul(x, y))
+			if x.Cmp(y) >= 0 {
+				checkNat(t, "Minus", a.Minus(b), new(big.Int).Sub(x, y))
+			}
+			if toBig(a).Cmp(x) != 0 || toBig(b).Cmp(y) != 0 {
+				t.Error("changed:", x, y)
+			}
+		}
+	}
+}
+
+func TestOver(t *testing.T) {
+	for _, a := range someNats() {
+		for _, b := range someNats() {
+			if len(b) == 0 {
+				continue
+			}
+			q, r := new(big.Int).QuoRem(toBig(a), toBig(b), new(big.Int))
+			times, rest, fits := a.Over(b)
+			if a.Bits()-b.Bits() > 63 {
+				if fits || times != 0 || rest != nil {
+					t.Error(a, b, times, rest, fits)
+				}
+				continue
+			}
+			if !fits || q.Cmp(new(big.Int).SetUint64(times)) != 0 {
+				t.Error(a, b, times, fits)
+			}
+			checkNat(t, "rest", rest, r)
+		}
+	}
+}
+
+// checkTold: num over den, both times a number, are told as math/big has them.
+func checkTold(t *testing.T, num, den, times Nat) {
+	t.Helper()
+	want := new(big.Rat).SetFrac(toBig(num), toBig(den))
+	most := big.NewInt(api.MaxTold)
+	f, err := Told(num.By(times), den.By(times))
+	if want.Num().Cmp(most) > 0 || want.Denom().Cmp(most) > 0 {
+		if err != api.ErrBound || f != (api.Frac{}) {
+			t.Error(want, f, err)
+		}
+		return
+	}
+	if err != nil || int64(f.Num) != want.Num().Int64() || int64(f.Den) != want.Denom().Int64() {
+		t.Error(want, f, err)
+	}
+}
+
+func TestTold(t *testing.T) {
+	const most = api.MaxTold
+	words := []uint64{0, 1, 2, 3, 1000, 4096, most/2 - 1, most / 2, most - 2, most - 1, most, most + 1, most + 2, 2*most - 1, 2 * most, 3 * most, 1<<64 - 1,
+		7540113804746346429, 4660046610375530309, 2880067194370816120, 1779979416004714189} // the last four: Fibonacci's, which take most steps
+	r := rand.New(rand.NewSource(2))
+	for range 40 {
+		words = append(words, r.Uint64()>>r.Intn(40))
+	}
+	for _, n := range words {
+		for _, d := range words[1:] {
+			for _, times := range []Nat{NatOf(1), NatOf(6), NatOf(1<<64 - 1), someNats()[12]} {
+				checkTold(t, NatOf(n), NatOf(d), times)
+			}
+		}
+	}
+	for _, a := range someNats() {
+		for _, b := range someNats() {
+			if len(b) > 0 {
+				checkTold(t, a, b, NatOf(1))
 			}
 		}
 	}
