@@ -13,6 +13,7 @@ import (
 	"demon/dist"
 	"demon/logs"
 	"demon/plain"
+	"demon/prefix"
 )
 
 // P5
@@ -143,4 +144,17 @@ var (
 	_ func(c [][]int, to int) (api.Frac, error)               = chain.Return
 	_ func(c [][]int, w []int, steps int) ([]api.Frac, error) = chain.After
 	_ func([][]int) (api.Log, error)                          = chain.Rate
+)
+
+// What package prefix exports stays as it was given.
+var (
+	_ func([]string) error                                   = prefix.Valid
+	_ func([]int) (api.Frac, error)                          = prefix.Kraft
+	_ func([]int) ([]string, error)                          = prefix.Canon
+	_ func([]string) (bool, error)                           = prefix.Prefix
+	_ func([]string) (bool, error)                           = prefix.Unique
+	_ func(words []string, text string) ([]int, error)       = prefix.Decode
+	_ func([]int) ([]int, error)                             = prefix.Huffman
+	_ func([]int) ([]int, error)                             = prefix.Alphabetic
+	_ func(keys, gaps []int) (cost int, root int, err error) = prefix.Search
 )
