@@ -9,6 +9,7 @@ import (
 	"testing"
 
 	"demon/api"
+	"demon/arith"
 	"demon/chain"
 	"demon/dist"
 	"demon/logs"
@@ -157,4 +158,17 @@ var (
 	_ func([]int) ([]int, error)                             = prefix.Huffman
 	_ func([]int) ([]int, error)                             = prefix.Alphabetic
 	_ func(keys, gaps []int) (cost int, root int, err error) = prefix.Search
+)
+
+// What package arith exports stays as it was given.
+var (
+	_ func(w []int, l []int) (low, width api.Frac, err error) = arith.Interval
+	_ func(w []int, l []int) (string, error)                  = arith.Encode
+	_ func(w []int, text string, n int) ([]int, error)        = arith.Decode
+	_ func(int) (string, error)                               = arith.Gamma
+	_ func(int) (string, error)                               = arith.Delta
+	_ func(int) (string, error)                               = arith.Omega
+	_ func(string) (n, rest int, err error)                   = arith.ReadGamma
+	_ func(string) (n, rest int, err error)                   = arith.ReadDelta
+	_ func(string) (n, rest int, err error)                   = arith.ReadOmega
 )

@@ -3,6 +3,7 @@ package whole
 import (
 	"cmp"
 	"math/bits"
+	"strings"
 )
 
 // Nat is a number from 0 on without a bound: words of 64 bits, the lowest one first, the last one not 0. It is never changed once it is made.
@@ -14,6 +15,18 @@ func NatOf(word uint64) Nat {
 		return nil
 	}
 	return Nat{word}
+}
+
+// NatOfBits is the number that a text of 0 and 1 writes (the empty one: 0).
+func NatOfBits(text string) Nat {
+	text = strings.TrimLeft(text, "0")
+	out := make(Nat, (len(text)+63)/64)
+	for i := range len(text) {
+		if place := len(text) - 1 - i; text[i] == '1' {
+			out[place/64] |= 1 << (place % 64)
+		}
+	}
+	return out
 }
 
 // Times a word.

@@ -3,6 +3,7 @@ package whole
 import (
 	"math/big"
 	"math/rand"
+	"strings"
 	"testing"
 
 	"demon/api"
@@ -71,6 +72,16 @@ func someNats() []Nat {
 		out = append(out, a)
 	}
 	return out
+}
+
+func TestNatOfBits(t *testing.T) {
+	checkNat(t, "nothing", NatOfBits(""), new(big.Int))
+	for _, a := range someNats() {
+		x := toBig(a)
+		for _, ahead := range []string{"", "0", strings.Repeat("0", 200)} {
+			checkNat(t, "bits", NatOfBits(ahead+x.Text(2)), x)
+		}
+	}
 }
 
 func TestNat(t *testing.T) {
