@@ -12,6 +12,7 @@ import (
 	"demon/arith"
 	"demon/chain"
 	"demon/dist"
+	"demon/lempel"
 	"demon/logs"
 	"demon/plain"
 	"demon/prefix"
@@ -171,4 +172,24 @@ var (
 	_ func(string) (n, rest int, err error)                   = arith.ReadGamma
 	_ func(string) (n, rest int, err error)                   = arith.ReadDelta
 	_ func(string) (n, rest int, err error)                   = arith.ReadOmega
+)
+
+// What package lempel exports stays as it was given.
+var (
+	_ = lempel.Phrase(struct {
+		Of   int
+		Next byte
+		Last bool
+	}{})
+	_ = lempel.Copy(struct {
+		Back, Length int
+		Next         byte
+		Last         bool
+	}{})
+	_ func(string) ([]lempel.Phrase, error)             = lempel.Parse
+	_ func([]lempel.Phrase) (string, error)             = lempel.Text
+	_ func(s string, window int) ([]lempel.Copy, error) = lempel.Slide
+	_ func([]lempel.Copy) (string, error)               = lempel.Unslide
+	_ func(string) (api.Frac, error)                    = lempel.Chance
+	_ func(s string, d int) (api.Frac, error)           = lempel.Weighted
 )
