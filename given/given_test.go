@@ -16,6 +16,7 @@ import (
 	"demon/logs"
 	"demon/plain"
 	"demon/prefix"
+	"demon/types"
 )
 
 // P5
@@ -192,4 +193,13 @@ var (
 	_ func([]lempel.Copy) (string, error)               = lempel.Unslide
 	_ func(string) (api.Frac, error)                    = lempel.Chance
 	_ func(s string, d int) (api.Frac, error)           = lempel.Weighted
+)
+
+// What package types exports stays as it was given.
+var (
+	_ func(n, k int) (int, error)                    = types.Count
+	_ func(n, k int) ([][]int, error)                = types.All
+	_ func([]int) (int, error)                       = types.Size
+	_ func(t []int, q []int) (api.Frac, error)       = types.Chance
+	_ func(n int, q []int, set [][]int) (int, error) = types.Nearest
 )

@@ -108,7 +108,7 @@ func (a Nat) By(b Nat) Nat {
 	return out
 }
 
-// TimesPower is a times the power of a word that is not 0. Factors are gathered in one word while they fit, as each pass over a costs its whole length.
+// TimesPower is a times the power of a word (0 to the power of 0 is 1). Factors are gathered in one word while they fit, as each pass over a costs its whole length.
 func (a Nat) TimesPower(word uint64, power int) Nat {
 	gathered := uint64(1)
 	for range power {

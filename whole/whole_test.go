@@ -106,7 +106,7 @@ func TestNat(t *testing.T) {
 			}
 		}
 		for _, power := range []int{0, 1, 2, 40, 41, 777} {
-			for _, word := range []uint64{1, 3, 999983, 1<<64 - 1} {
+			for _, word := range []uint64{0, 1, 3, 999983, 1<<64 - 1} {
 				want := new(big.Int).Exp(new(big.Int).SetUint64(word), big.NewInt(int64(power)), nil)
 				if got := toBig(a.TimesPower(word, power)); got.Cmp(want.Mul(want, x)) != 0 {
 					t.Errorf("%v times %d to the power of %d: %v", x, word, power, got)
