@@ -11,6 +11,7 @@ import (
 	"demon/api"
 	"demon/arith"
 	"demon/chain"
+	"demon/channel"
 	"demon/dist"
 	"demon/lempel"
 	"demon/logs"
@@ -202,4 +203,16 @@ var (
 	_ func([]int) (int, error)                       = types.Size
 	_ func(t []int, q []int) (api.Frac, error)       = types.Chance
 	_ func(n int, q []int, set [][]int) (int, error) = types.Nearest
+)
+
+// What package channel exports stays as it was given.
+var (
+	_ func([][]int) error                               = channel.Valid
+	_ func(p []int, c [][]int) ([][]int, error)         = channel.Table
+	_ func(p []int, c [][]int) (api.Log, error)         = channel.Through
+	_ func(c [][]int, q []int) (api.Log, int, error)    = channel.Above
+	_ func([][]int) (bool, error)                       = channel.Even
+	_ func([][]int) (api.Log, error)                    = channel.Capacity
+	_ func(a, b [][]int) ([][]int, error)               = channel.Behind
+	_ func(p []int, c [][]int) ([]int, api.Frac, error) = channel.Guess
 )
