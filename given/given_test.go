@@ -18,6 +18,7 @@ import (
 	"demon/plain"
 	"demon/prefix"
 	"demon/types"
+	"demon/zero"
 )
 
 // P5
@@ -215,4 +216,18 @@ var (
 	_ func([][]int) (api.Log, error)                    = channel.Capacity
 	_ func(a, b [][]int) ([][]int, error)               = channel.Behind
 	_ func(p []int, c [][]int) ([]int, api.Frac, error) = channel.Guess
+)
+
+// What package zero exports stays as it was given.
+var (
+	_ = zero.Graph(struct {
+		N     int
+		Edges [][2]int
+	}{})
+	_ func(zero.Graph) error                                                 = zero.Valid
+	_ func([][]int) (zero.Graph, error)                                      = zero.Of
+	_ func(zero.Graph) ([]int, error)                                        = zero.Alone
+	_ func(a, b zero.Graph) (zero.Graph, error)                              = zero.Strong
+	_ func(g zero.Graph, w []api.Frac) (api.Frac, bool, error)               = zero.Packs
+	_ func(g zero.Graph, sets [][]int, w []api.Frac) (api.Frac, bool, error) = zero.Covers
 )
