@@ -17,6 +17,7 @@ import (
 	"demon/logs"
 	"demon/plain"
 	"demon/prefix"
+	"demon/secret"
 	"demon/types"
 	"demon/zero"
 )
@@ -230,4 +231,17 @@ var (
 	_ func(a, b zero.Graph) (zero.Graph, error)                              = zero.Strong
 	_ func(g zero.Graph, w []api.Frac) (api.Frac, bool, error)               = zero.Packs
 	_ func(g zero.Graph, sets [][]int, w []api.Frac) (api.Frac, bool, error) = zero.Covers
+)
+
+// What package secret exports stays as it was given.
+var (
+	_ = secret.Cipher(struct {
+		Keys []int
+		L    [][]int
+	}{})
+	_ func(secret.Cipher) error                        = secret.Valid
+	_ func(secret.Cipher) (bool, error)                = secret.Perfect
+	_ func(c secret.Cipher, w []int) ([][]int, error)  = secret.Table
+	_ func(p int, coefs []int, n int) ([]int, error)   = secret.Share
+	_ func(p int, at []int, values []int) (int, error) = secret.Join
 )
