@@ -15,6 +15,7 @@ import (
 	"demon/dist"
 	"demon/lempel"
 	"demon/logs"
+	"demon/machine"
 	"demon/plain"
 	"demon/prefix"
 	"demon/secret"
@@ -244,4 +245,11 @@ var (
 	_ func(c secret.Cipher, w []int) ([][]int, error)  = secret.Table
 	_ func(p int, coefs []int, n int) ([]int, error)   = secret.Share
 	_ func(p int, at []int, values []int) (int, error) = secret.Join
+)
+
+// What package machine exports stays as it was given.
+var (
+	_ func(p string) (string, error) = machine.Run
+	_ func(x string) (string, error) = machine.Least
+	_ func(n int) (int, error)       = machine.Many
 )
