@@ -13,6 +13,7 @@ import (
 	"demon/chain"
 	"demon/channel"
 	"demon/dist"
+	"demon/ising"
 	"demon/lempel"
 	"demon/logs"
 	"demon/machine"
@@ -252,4 +253,19 @@ var (
 	_ func(p string) (string, error) = machine.Run
 	_ func(x string) (string, error) = machine.Least
 	_ func(n int) (int, error)       = machine.Many
+)
+
+// What package ising exports stays as it was given.
+var (
+	_ = ising.System(struct {
+		N     int
+		Bonds [][2]int
+	}{})
+	_ func(ising.System) error                         = ising.Valid
+	_ func(ising.System) ([]int, error)                = ising.States
+	_ func(ising.System) ([]int, error)                = ising.Even
+	_ func(high, long int, ring bool) ([]int, error)   = ising.Strip
+	_ func(high, long int) (ising.System, error)       = ising.Grid
+	_ func(high, long int) (ising.System, error)       = ising.Faces
+	_ func(counts []int, x api.Frac) (api.Frac, error) = ising.Mean
 )
