@@ -13,6 +13,7 @@ import (
 	"demon/chain"
 	"demon/channel"
 	"demon/dist"
+	"demon/heat"
 	"demon/ising"
 	"demon/lempel"
 	"demon/logs"
@@ -268,4 +269,19 @@ var (
 	_ func(high, long int) (ising.System, error)       = ising.Grid
 	_ func(high, long int) (ising.System, error)       = ising.Faces
 	_ func(counts []int, x api.Frac) (api.Frac, error) = ising.Mean
+)
+
+// What package heat exports stays as it was given.
+var (
+	_ = heat.Process(struct {
+		Weights [][]int
+		Steps   [][][]int
+	}{})
+	_                                                                     = heat.Leg(struct{ Heat, At api.Frac }{})
+	_ func(heat.Process) error                                            = heat.Valid
+	_ func(p heat.Process, path []int) (chance, gain api.Frac, err error) = heat.Chance
+	_ func(p heat.Process, path []int) (api.Frac, error)                  = heat.Reverse
+	_ func(heat.Process) (api.Frac, error)                                = heat.Mean
+	_ func([]heat.Leg) (work, entropy api.Frac, err error)                = heat.Round
+	_ func([]int) (api.Log, error)                                        = heat.Erase
 )

@@ -34,6 +34,11 @@ func Lowest(num, den int) api.Frac {
 	return api.Frac{Num: num / common, Den: den / common}
 }
 
+// IsLowest tells whether a fraction is in its lowest terms, Den above 0, with no number above most in size. It is looked at from both sides, as the least number has no size.
+func IsLowest(f api.Frac, most int) bool {
+	return f.Den >= 1 && f.Den <= most && f.Num >= -most && f.Num <= most && GCD(f.Num, f.Den) == 1
+}
+
 // Floor is the greatest whole number that is at most a over b; b is above 0.
 func Floor(a, b int) int {
 	q := a / b

@@ -35,3 +35,22 @@ func Told(num, den Nat) (api.Frac, error) {
 
 // fitsTold tells whether a times b, and c, are together at most api.MaxTold; each alone is, and none is below 0.
 func fitsTold(a, b, c int) bool { return b == 0 || a <= (api.MaxTold-c)/b }
+
+// Sum of fractions, each Den above 0, in its lowest terms; ErrBound: a number of it is above api.MaxTold in size. What is above 0 and what is below it are summed apart, as a Nat has no sign.
+func Sum(l []api.Frac) (api.Frac, error) {
+	up, down, den := NatOf(0), NatOf(0), NatOf(1)
+	for _, f := range l {
+		part, own := den.Times(uint64(Size(f.Num))), uint64(f.Den)
+		up, down, den = up.Times(own), down.Times(own), den.Times(own)
+		if f.Num < 0 {
+			down = down.Plus(part)
+		} else {
+			up = up.Plus(part)
+		}
+	}
+	if up.Cmp(down) >= 0 {
+		return Told(up.Minus(down), den)
+	}
+	f, err := Told(down.Minus(up), den)
+	return api.Frac{Num: -f.Num, Den: f.Den}, err
+}

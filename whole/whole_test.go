@@ -1,6 +1,7 @@
 package whole
 
 import (
+	"math"
 	"math/big"
 	"math/rand"
 	"strings"
@@ -33,6 +34,28 @@ func TestSmall(t *testing.T) {
 func TestTotal(t *testing.T) {
 	if Total(nil) != 0 || Total([]int{4}) != 4 || Total([]int{4, -1, 7}) != 10 {
 		t.Error(Total(nil), Total([]int{4}), Total([]int{4, -1, 7}))
+	}
+}
+
+func TestIsLowest(t *testing.T) {
+	for num := -9; num <= 9; num++ {
+		for den := -9; den <= 9; den++ {
+			want := false
+			if den > 0 {
+				r := big.NewRat(int64(num), int64(den))
+				want = max(num, -num) <= 7 && den <= 7 && r.Num().Int64() == int64(num) && r.Denom().Int64() == int64(den)
+			}
+			if got := IsLowest(api.Frac{Num: num, Den: den}, 7); got != want {
+				t.Errorf("IsLowest(%d over %d) = %v", num, den, got)
+			}
+		}
+	}
+	for _, n := range []int{math.MinInt, math.MinInt + 1, math.MaxInt} {
+		for _, f := range []api.Frac{{Num: n, Den: 1}, {Num: 1, Den: n}, {Num: n, Den: n}, {Num: n, Den: -1}, {Num: n}} {
+			if IsLowest(f, 1000) {
+				t.Error(f)
+			}
+		}
 	}
 }
 
@@ -217,6 +240,63 @@ func TestTold(t *testing.T) {
 				checkTold(t, a, b, NatOf(1))
 			}
 		}
+	}
+}
+
+// checkSum: as math/big has it; tells whether it is not too great.
+func checkSum(t *testing.T, l []api.Frac) bool {
+	t.Helper()
+	want, most := new(big.Rat), big.NewInt(api.MaxTold)
+	for _, f := range l {
+		want.Add(want, big.NewRat(int64(f.Num), int64(f.Den)))
+	}
+	f, err := Sum(l)
+	if want.Num().CmpAbs(most) > 0 || want.Denom().Cmp(most) > 0 {
+		if err != api.ErrBound || f != (api.Frac{}) {
+			t.Error(l, f, err)
+		}
+		return false
+	}
+	if err != nil || int64(f.Num) != want.Num().Int64() || int64(f.Den) != want.Denom().Int64() {
+		t.Error(l, f, want, err)
+	}
+	return true
+}
+
+func TestSum(t *testing.T) {
+	const most = api.MaxTold
+	for _, x := range []struct {
+		l   []api.Frac
+		fit bool
+	}{
+		{nil, true},
+		{[]api.Frac{{Num: 0, Den: 7}}, true},
+		{[]api.Frac{{Num: -6, Den: 4}}, true},
+		{[]api.Frac{{Num: 1, Den: 3}, {Num: -1, Den: 3}}, true},
+		{[]api.Frac{{Num: -1, Den: 2}, {Num: 1, Den: 3}, {Num: 1, Den: 6}}, true},
+		{[]api.Frac{{Num: most - 1, Den: 1}, {Num: 1, Den: 1}}, true},
+		{[]api.Frac{{Num: most, Den: 1}, {Num: 1, Den: 1}}, false},
+		{[]api.Frac{{Num: 1 - most, Den: 1}, {Num: -1, Den: 1}}, true},
+		{[]api.Frac{{Num: -most, Den: 1}, {Num: -1, Den: 1}}, false},
+		{[]api.Frac{{Num: 1, Den: most}, {Num: -1, Den: 1}}, true},
+		{[]api.Frac{{Num: -1, Den: most}, {Num: -1, Den: 1}}, false},
+		{[]api.Frac{{Num: 1, Den: most + 1}}, false},
+		{[]api.Frac{{Num: math.MinInt, Den: 1}}, false},
+		{[]api.Frac{{Num: math.MinInt, Den: 2}}, true},
+		{[]api.Frac{{Num: math.MinInt, Den: 1}, {Num: math.MaxInt, Den: 1}}, true},
+		{[]api.Frac{{Num: math.MaxInt, Den: math.MaxInt}, {Num: math.MinInt, Den: math.MaxInt}}, false},
+	} {
+		if checkSum(t, x.l) != x.fit {
+			t.Error(x)
+		}
+	}
+	r := rand.New(rand.NewSource(3))
+	for range 5000 {
+		l := make([]api.Frac, r.Intn(9))
+		for i := range l {
+			l[i] = api.Frac{Num: int(r.Uint64()) >> r.Intn(64), Den: 1 + r.Intn(1<<r.Intn(20))}
+		}
+		checkSum(t, l)
 	}
 }
 

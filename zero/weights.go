@@ -20,11 +20,11 @@ func Packs(g Graph, w []api.Frac) (api.Frac, bool, error) {
 	if len(w) != g.N || slices.ContainsFunc(w, isNoWeight) {
 		return api.Frac{}, false, api.ErrShape
 	}
-	s := sharesOf(w)
-	sum, err := s.sum()
+	sum, err := whole.Sum(w)
 	if err != nil {
 		return api.Frac{}, false, err
 	}
+	s := sharesOf(w)
 	return sum, s.below == 0 && s.pack(g), nil
 }
 
@@ -36,18 +36,15 @@ func Covers(g Graph, sets [][]int, w []api.Frac) (api.Frac, bool, error) {
 	if len(sets) > mostSets || len(w) != len(sets) || slices.ContainsFunc(w, isNoWeight) || !areOf(g.N, sets) {
 		return api.Frac{}, false, api.ErrShape
 	}
-	s := sharesOf(w)
-	sum, err := s.sum()
+	sum, err := whole.Sum(w)
 	if err != nil {
 		return api.Frac{}, false, err
 	}
+	s := sharesOf(w)
 	return sum, s.below == 0 && allJoined(g, sets) && s.cover(g.N, sets), nil
 }
 
-// isNoWeight: it is looked at from both sides, as the least number has no size.
-func isNoWeight(f api.Frac) bool {
-	return f.Den < 1 || f.Den > mostPart || f.Num < -mostPart || f.Num > mostPart || whole.GCD(f.Num, f.Den) != 1
-}
+func isNoWeight(f api.Frac) bool { return !whole.IsLowest(f, mostPart) }
 
 // areOf tells whether all numbers of sets are vertices.
 func areOf(n int, sets [][]int) bool {
@@ -103,16 +100,6 @@ func (s shares) together(places set) whole.Nat {
 		sum = sum.Plus(s.parts[places.first()])
 	}
 	return sum
-}
-
-// sum of the weights, with signs; ErrBound: it is too long to be told.
-func (s shares) sum() (api.Frac, error) {
-	up, down := s.together(upTo(len(s.parts))&^s.below), s.together(s.below)
-	if up.Cmp(down) >= 0 {
-		return whole.Told(up.Minus(down), s.one)
-	}
-	f, err := whole.Told(down.Minus(up), s.one)
-	return api.Frac{Num: -f.Num, Den: f.Den}, err
 }
 
 // pack tells whether no set of vertices of which each two have an edge has more than 1. None is below 0: so a set has the most when nothing is left that could be put to it, and where all that is left is not enough, nothing is grown.
