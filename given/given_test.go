@@ -20,6 +20,7 @@ import (
 	"demon/machine"
 	"demon/plain"
 	"demon/prefix"
+	"demon/sample"
 	"demon/secret"
 	"demon/types"
 	"demon/zero"
@@ -284,4 +285,14 @@ var (
 	_ func(heat.Process) (api.Frac, error)                                = heat.Mean
 	_ func([]heat.Leg) (work, entropy api.Frac, err error)                = heat.Round
 	_ func([]int) (api.Log, error)                                        = heat.Erase
+)
+
+// What package sample exports stays as it was given.
+var (
+	_                                                                        = sample.Rules([][]int{})
+	_ func(w []int, s string) (which, used int, err error)                   = sample.Draw
+	_ func([]int) (api.Frac, error)                                          = sample.Flips
+	_ func(sample.Rules) error                                               = sample.Valid
+	_ func(r sample.Rules, tape []int) (state, used int, ok bool, err error) = sample.Past
+	_ func(r sample.Rules, steps int) ([]int, int, error)                    = sample.Ends
 )
