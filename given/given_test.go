@@ -18,6 +18,7 @@ import (
 	"demon/lempel"
 	"demon/logs"
 	"demon/machine"
+	"demon/order"
 	"demon/plain"
 	"demon/prefix"
 	"demon/sample"
@@ -295,4 +296,17 @@ var (
 	_ func(sample.Rules) error                                               = sample.Valid
 	_ func(r sample.Rules, tape []int) (state, used int, ok bool, err error) = sample.Past
 	_ func(r sample.Rules, steps int) ([]int, int, error)                    = sample.Ends
+)
+
+// What package order exports stays as it was given.
+var (
+	_                                                                     = order.Move(struct{ From, To, Size int }{})
+	_                                                                     = order.Point(struct{ X, Y int }{})
+	_ func(p, q []int) (bool, error)                                      = order.Above
+	_ func(p, q []int) ([]order.Move, error)                              = order.Moves
+	_ func(p []int, l []order.Move) ([]int, error)                        = order.Apply
+	_ func([][]int) ([][]int, []int, error)                               = order.Parts
+	_ func(m [][]int, w []int) ([]int, error)                             = order.Spread
+	_ func([]order.Point) ([]int, error)                                  = order.Hull
+	_ func(l []order.Point, x int) (energy api.Frac, a, b int, err error) = order.Mix
 )
