@@ -25,7 +25,7 @@ func After(c [][]int, w []int, steps int) ([]api.Frac, error) {
 	for range steps {
 		now, all = step(rows, now), all.By(sum)
 	}
-	return told(now, all)
+	return whole.ToldAll(now, all)
 }
 
 // alike is the chain with all its rows made to have one sum, and this sum: so chances stay over one denominator.

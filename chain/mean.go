@@ -3,6 +3,7 @@ package chain
 import (
 	"demon/api"
 	"demon/dist"
+	"demon/fold"
 	"demon/logs"
 	"demon/whole"
 )
@@ -17,13 +18,12 @@ func Stationary(c [][]int) ([]api.Frac, error) {
 	if len(ends) > 1 {
 		return nil, api.ErrNone
 	}
-	states := class(to, ends[0])
-	nums, sum := make([]whole.Nat, len(c)), whole.NatOf(0)
-	for i, often := range fold(c, states).visits() {
-		n := often.Times(uint64(whole.Total(c[states[i]])))
-		nums[states[i]], sum = n, sum.Plus(n)
+	nums, sum := fold.Of(c, class(to, ends[0])).Visits(), whole.NatOf(0)
+	for i, often := range nums {
+		nums[i] = often.Times(uint64(whole.Total(c[i])))
+		sum = sum.Plus(nums[i])
 	}
-	return told(nums, sum)
+	return whole.ToldAll(nums, sum)
 }
 
 // Reversible chain?
@@ -69,17 +69,7 @@ func Hitting(c [][]int, to int) ([]api.Frac, error) {
 		}
 		states = append(states, i)
 	}
-	nums, den := fold(c, states).steps()
-	return told(inOrder(nums, states), den)
-}
-
-// inOrder puts what was reckoned for each of the states at its state's place.
-func inOrder(l []whole.Nat, states []int) []whole.Nat {
-	out := make([]whole.Nat, len(l))
-	for i, s := range states {
-		out[s] = l[i]
-	}
-	return out
+	return whole.ToldAll(fold.Of(c, states).Steps())
 }
 
 // Return to a state: mean steps.
@@ -98,9 +88,7 @@ func Return(c [][]int, to int) (api.Frac, error) {
 			states = append(states, k)
 		}
 	}
-	// With all others taken out, the one row that is left leads from the state straight back to it.
-	f := fold(c, states)
-	return whole.Told(f.times[0], f.weights[0][0])
+	return whole.Told(fold.Of(c, states).Return())
 }
 
 // Rate of entropy.

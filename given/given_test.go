@@ -24,6 +24,7 @@ import (
 	"demon/sample"
 	"demon/secret"
 	"demon/types"
+	"demon/walks"
 	"demon/zero"
 )
 
@@ -309,4 +310,20 @@ var (
 	_ func(m [][]int, w []int) ([]int, error)                             = order.Spread
 	_ func([]order.Point) ([]int, error)                                  = order.Hull
 	_ func(l []order.Point, x int) (energy api.Frac, a, b int, err error) = order.Mix
+)
+
+// What package walks exports stays as it was given.
+var (
+	_ = walks.Wire(struct{ A, B, C int }{})
+	_ = walks.Net(struct {
+		N     int
+		Wires []walks.Wire
+	}{})
+	_ func(walks.Net) error                               = walks.Valid
+	_ func(g walks.Net, from, to int) ([]api.Frac, error) = walks.Voltages
+	_ func(g walks.Net, from, to int) (api.Frac, error)   = walks.Resistance
+	_ func(walks.Net) ([][]int, error)                    = walks.Chain
+	_ func(walks.Net) (int, error)                        = walks.Trees
+	_ func(g walks.Net, a, b int) (walks.Net, error)      = walks.Short
+	_ func(g walks.Net, a, b int) (api.Frac, error)       = walks.Commute
 )

@@ -33,6 +33,19 @@ func Told(num, den Nat) (api.Frac, error) {
 	return now, nil
 }
 
+// ToldAll are numbers over one den, each as Told has it; ErrBound: of one of them.
+func ToldAll(nums []Nat, den Nat) ([]api.Frac, error) {
+	out := make([]api.Frac, len(nums))
+	for i, n := range nums {
+		f, err := Told(n, den)
+		if err != nil {
+			return nil, err
+		}
+		out[i] = f
+	}
+	return out, nil
+}
+
 // fitsTold tells whether a times b, and c, are together at most api.MaxTold; each alone is, and none is below 0.
 func fitsTold(a, b, c int) bool { return b == 0 || a <= (api.MaxTold-c)/b }
 

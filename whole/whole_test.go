@@ -4,6 +4,7 @@ import (
 	"math"
 	"math/big"
 	"math/rand"
+	"slices"
 	"strings"
 	"testing"
 
@@ -239,6 +240,31 @@ func TestTold(t *testing.T) {
 			if len(b) > 0 {
 				checkTold(t, a, b, NatOf(1))
 			}
+		}
+	}
+}
+
+func TestToldAll(t *testing.T) {
+	for _, x := range []struct {
+		nums []uint64
+		den  uint64
+		want []api.Frac
+		err  error
+	}{
+		{nil, 7, nil, nil},
+		{[]uint64{0, 3, 4, 12}, 6, []api.Frac{{Den: 1}, {Num: 1, Den: 2}, {Num: 2, Den: 3}, {Num: 2, Den: 1}}, nil},
+		{[]uint64{api.MaxTold, 1}, 1, []api.Frac{{Num: api.MaxTold, Den: 1}, {Num: 1, Den: 1}}, nil},
+		// Only one of them is too great.
+		{[]uint64{1, 2, api.MaxTold + 1}, 1, nil, api.ErrBound},
+		{[]uint64{api.MaxTold + 1, 1, 2}, 1, nil, api.ErrBound},
+		{[]uint64{0, 3, 2 * (api.MaxTold + 1)}, 2 * (api.MaxTold + 1), nil, api.ErrBound},
+	} {
+		var nums []Nat
+		for _, n := range x.nums {
+			nums = append(nums, NatOf(n))
+		}
+		if got, err := ToldAll(nums, NatOf(x.den)); !slices.Equal(got, x.want) || err != x.err {
+			t.Error(x, got, err)
 		}
 	}
 }
