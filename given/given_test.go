@@ -21,6 +21,7 @@ import (
 	"demon/order"
 	"demon/plain"
 	"demon/prefix"
+	"demon/renyi"
 	"demon/sample"
 	"demon/secret"
 	"demon/types"
@@ -326,4 +327,20 @@ var (
 	_ func(walks.Net) (int, error)                        = walks.Trees
 	_ func(g walks.Net, a, b int) (walks.Net, error)      = walks.Short
 	_ func(g walks.Net, a, b int) (api.Frac, error)       = walks.Commute
+)
+
+// What package renyi exports stays as it was given.
+var (
+	_ = renyi.Family(struct {
+		M int
+		L [][]int
+	}{})
+	_ func([]int) (api.Log, error)                    = renyi.Collision
+	_ func([]int) (api.Log, error)                    = renyi.Least
+	_ func([]int) (api.Log, error)                    = renyi.Support
+	_ func([]int) (api.Frac, error)                   = renyi.Guesses
+	_ func(renyi.Family) error                        = renyi.Valid
+	_ func(renyi.Family) (bool, error)                = renyi.Universal
+	_ func(p, most int) (renyi.Family, error)         = renyi.Linear
+	_ func(f renyi.Family, w []int) (api.Frac, error) = renyi.Far
 )
