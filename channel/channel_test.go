@@ -7,6 +7,7 @@ import (
 	"testing"
 
 	"demon/api"
+	"demon/dist"
 )
 
 type channelCase struct {
@@ -175,6 +176,27 @@ func TestTableRefuses(t *testing.T) {
 			t.Error(c, got, err)
 		}
 	}
+}
+
+// What is right by itself may still be too much for a table.
+func TestValidWith(t *testing.T) {
+	seen := 0
+	for _, c := range wrongTables() {
+		switch err := ValidWith(c.p, c.c); {
+		case err == nil && c.err == api.ErrBound && wantValidWith(c.p, c.c):
+			seen++
+		case err != c.err:
+			t.Error(c, err)
+		}
+	}
+	if seen != 7 {
+		t.Error(seen)
+	}
+}
+
+// wantValidWith tells whether a channel and weights are right, each by itself, and as many.
+func wantValidWith(p []int, c [][]int) bool {
+	return Valid(c) == nil && dist.Valid(p) == nil && len(p) == len(c)
 }
 
 func TestThrough(t *testing.T) {

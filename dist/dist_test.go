@@ -225,6 +225,9 @@ func pairErrors() []struct {
 
 func TestVariationRefuses(t *testing.T) {
 	for _, c := range pairErrors() {
+		if err := ValidPair(c.p, c.q); err != c.err {
+			t.Error(c, err)
+		}
 		if f, err := Variation(c.p, c.q); err != c.err || f != (api.Frac{}) {
 			t.Error(c, f, err)
 		}

@@ -35,7 +35,7 @@ func Entropy(w []int) (api.Log, error) {
 
 // Divergence of p from q.
 func Divergence(p, q []int) (api.Log, error) {
-	if err := checkPair(p, q); err != nil {
+	if err := ValidPair(p, q); err != nil {
 		return api.Log{}, err
 	}
 	for i, x := range p {

@@ -10,6 +10,7 @@ import (
 
 	"demon/api"
 	"demon/arith"
+	"demon/bayes"
 	"demon/chain"
 	"demon/channel"
 	"demon/dist"
@@ -343,4 +344,12 @@ var (
 	_ func(renyi.Family) (bool, error)                = renyi.Universal
 	_ func(p, most int) (renyi.Family, error)         = renyi.Linear
 	_ func(f renyi.Family, w []int) (api.Frac, error) = renyi.Far
+)
+
+// What package bayes exports stays as it was given.
+var (
+	_ func(w []int, c [][]int, data []int) (api.Frac, error)   = bayes.Chance
+	_ func(w []int, c [][]int, data []int) ([]api.Frac, error) = bayes.Posterior
+	_ func(w []int, c [][]int, data []int) (int, error)        = bayes.Choice
+	_ func(p, q []int, n int) (api.Frac, error)                = bayes.Errors
 )
